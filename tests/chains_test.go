@@ -110,8 +110,7 @@ func TestP14TransformersHaveTheDeterminantOne(t *testing.T) {
 		}
 		if d, dOk := impl.Determinant(m); dOk {
 			told++
-			// What is divided by the greatest or the least numbers has too few digits.
-			if p := impl.Power(n); p > 1e-70 && p < 1e70 && !impl.Near(d, 1, 0.001) {
+			if !impl.Near(d, 1, 0.001) {
 				t.Errorf("%v has the determinant %v", n, d)
 			}
 		}
