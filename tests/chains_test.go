@@ -463,11 +463,7 @@ func seenAsTold(m impl.Two, load complex64) (complex64, bool) {
 	w := &way{}
 	w.matrix(m)
 	w.there(load)
-	seen := w.by(w.plus(w.times(m.A, load), m.B), w.plus(w.times(m.C, load), m.D))
-	if w.lost {
-		return 0, false
-	}
-	return seen, true
+	return w.number(w.by(w.plus(w.times(m.A, load), m.B), w.plus(w.times(m.C, load), m.D)))
 }
 
 // Chains are reckoned by Go's operators in the order told, down to the signs of zero.

@@ -42,6 +42,13 @@ func (w *way) determinant(m impl.Two) complex64 {
 	return w.less(w.times(m.A, m.D), w.times(m.B, m.C))
 }
 
+func (w *way) number(z complex64) (complex64, bool) {
+	if w.lost {
+		return 0, false
+	}
+	return z, true
+}
+
 func (w *way) end(m impl.Two) (impl.Two, bool) {
 	if w.lost {
 		return noTwo, false
