@@ -96,6 +96,11 @@ func thousandths(part float32) (int, bool) {
 	return int(n), true
 }
 
+// absolute returns the absolute value of a part, without a sign of zero.
+func absolute(part float32) float32 {
+	return float32(math.Abs(float64(part)))
+}
+
 // ifFinite returns a number and true if it is Finite, 0 and false for others.
 func ifFinite(z complex64) (complex64, bool) {
 	if !Finite(z) {
