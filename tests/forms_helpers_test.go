@@ -130,3 +130,12 @@ func expectNone(t *testing.T, what string, got impl.Two, ok bool) {
 	t.Helper()
 	expectTwo(t, what, got, ok, noTwo, false)
 }
+
+// quarters returns the numbers whose parts are quarters, from -most on and at most most.
+func quarters(most float32) []complex64 {
+	var parts []float32
+	for part := -most; part <= most; part += 0.25 {
+		parts = append(parts, part)
+	}
+	return pairs(parts)
+}

@@ -227,7 +227,7 @@ func gainAsTold(c gainOf) (float64, bool) {
 
 func TestP35IsReckonedAsTold(t *testing.T) {
 	numbers := allNumbers()
-	nearby := quarters()
+	nearby := quarters(2)
 	r := chance()
 	told, signs := 0, map[bool]int{}
 	for _, s := range scatterings() {

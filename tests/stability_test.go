@@ -7,18 +7,9 @@ import (
 	"loop.example/twoports/impl"
 )
 
-// quarters returns all numbers whose parts are quarters, from -2 on and at most 2.
-func quarters() []complex64 {
-	var parts []float32
-	for n := -8; n <= 8; n++ {
-		parts = append(parts, float32(n)/4)
-	}
-	return pairs(parts)
-}
-
 // quarterTwos returns matrices whose numbers are quarters.
 func quarterTwos() []impl.Two {
-	numbers := quarters()
+	numbers := quarters(2)
 	list := cornerTwos(2)
 	r := chance()
 	for range 30000 {
